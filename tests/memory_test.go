@@ -1,20 +1,154 @@
 package tests
 
 import (
+	"reflect"
 	"slices"
 	"testing"
 )
 
 const spareSign = 7777
 
-// withSpare is x with room behind its length; what fills that room is told apart from all numbers of the tests.
-func withSpare(x []int) []int {
-	room := make([]int, len(x)+16)
-	for i := range room {
-		room[i] = spareSign
+// withSpare is a deep copy of v, in which each list has room behind its length; what fills that room is told apart from all that stands in the lists of the tests.
+func withSpare[T any](v T) T {
+	return spareOf(reflect.ValueOf(&v).Elem()).Interface().(T)
+}
+
+func spareOf(v reflect.Value) reflect.Value {
+	out := reflect.New(v.Type()).Elem()
+	switch v.Kind() {
+	case reflect.Slice:
+		const room = 16
+		list := reflect.MakeSlice(v.Type(), v.Len()+room, v.Len()+room)
+		for i := range v.Len() {
+			list.Index(i).Set(spareOf(v.Index(i)))
+		}
+		for i := range room {
+			fillSign(list.Index(v.Len() + i))
+		}
+		out.Set(list.Slice(0, v.Len()))
+	case reflect.Struct:
+		for i := range v.NumField() {
+			out.Field(i).Set(spareOf(v.Field(i)))
+		}
+	default:
+		out.Set(v)
 	}
-	copy(room, x)
-	return room[:len(x)]
+	return out
+}
+
+// fillSign puts spareSign for each number of v, the other way round for each flag, a text and a list of one for what is empty.
+func fillSign(v reflect.Value) {
+	switch v.Kind() {
+	case reflect.Int:
+		v.SetInt(spareSign)
+	case reflect.Bool:
+		v.SetBool(!v.Bool())
+	case reflect.String:
+		v.SetString(v.String() + "spare")
+	case reflect.Slice:
+		if v.Len() == 0 {
+			v.Set(reflect.MakeSlice(v.Type(), 1, 1))
+		}
+		for i := range v.Len() {
+			fillSign(v.Index(i))
+		}
+	case reflect.Struct:
+		for i := range v.NumField() {
+			fillSign(v.Field(i))
+		}
+	}
+}
+
+// withRoomOf is a deep copy of v in which each list is as long as its room, so that what is written behind a list's length is seen in it.
+func withRoomOf[T any](v T) T {
+	return copyOf(reflect.ValueOf(&v).Elem(), true).Interface().(T)
+}
+
+// deepCopy shares no list with v.
+func deepCopy[T any](v T) T {
+	return copyOf(reflect.ValueOf(&v).Elem(), false).Interface().(T)
+}
+
+func copyOf(v reflect.Value, room bool) reflect.Value {
+	out := reflect.New(v.Type()).Elem()
+	switch v.Kind() {
+	case reflect.Slice:
+		if room {
+			v = v.Slice(0, v.Cap())
+		}
+		list := reflect.MakeSlice(v.Type(), v.Len(), v.Len())
+		for i := range v.Len() {
+			list.Index(i).Set(copyOf(v.Index(i), room))
+		}
+		out.Set(list)
+	case reflect.Struct:
+		for i := range v.NumField() {
+			out.Field(i).Set(copyOf(v.Field(i), room))
+		}
+	default:
+		out.Set(v)
+	}
+	return out
+}
+
+// alike tells whether a and b are the same where an empty list and nil are.
+func alike[T any](a, b T) bool {
+	return reflect.DeepEqual(deepCopy(a), deepCopy(b))
+}
+
+// A block is the memory of one list with the room behind it.
+type block struct {
+	from, end uintptr
+}
+
+func blocksOf(v reflect.Value) []block {
+	var out []block
+	switch v.Kind() {
+	case reflect.Slice:
+		from := v.Pointer()
+		if size := uintptr(v.Cap()) * v.Type().Elem().Size(); size > 0 {
+			out = append(out, block{from, from + size})
+		}
+		for i := range v.Len() {
+			out = append(out, blocksOf(v.Index(i))...)
+		}
+	case reflect.Struct:
+		for i := range v.NumField() {
+			out = append(out, blocksOf(v.Field(i))...)
+		}
+	}
+	return out
+}
+
+// checkApart fails where two lists of the values, or of one of them, share memory.
+func checkApart(t *testing.T, name string, values ...any) {
+	t.Helper()
+	var all []block
+	for _, v := range values {
+		all = append(all, blocksOf(reflect.ValueOf(v))...)
+	}
+	slices.SortFunc(all, func(a, b block) int {
+		if a.from < b.from {
+			return -1
+		}
+		return 1
+	})
+	for i := 1; i < len(all); i++ {
+		if all[i].from < all[i-1].end {
+			t.Errorf("%s: two lists share memory", name)
+			return
+		}
+	}
+}
+
+// keeping calls with v, and fails where v, or the room behind one of its lists, is another one then.
+func keeping[T any](t *testing.T, name string, v T, call func(v T)) {
+	t.Helper()
+	before := withRoomOf(v)
+	call(v)
+	if !reflect.DeepEqual(withRoomOf(v), before) {
+		t.Errorf("%s: the argument %+v is written into", name, v)
+	}
 }
 
 // checkKept fails where x, or the room behind it, is no longer as withSpare made it of want.
