@@ -507,8 +507,28 @@ func TestAspifReadTexts(t *testing.T) {
 	} {
 		checkFault(t, c.name, source(c.line), 2, c.code)
 	}
-	for _, line := range []string{"4 2 é 0", "4 1 \t 0", "4 1 \x7f 0", "4 2 a\r 0", "4 21 aaaaaaaaaaaaaaaaaaaaa 0", "4 0  0", "4 1 \xff 0"} {
+	for _, line := range []string{"4 2 é 0", "4 1 \t 0", "4 1 \x7f 0", "4 2 a\r 0", "4 21 aaaaaaaaaaaaaaaaaaaaa 0", "4 1 \xff 0"} {
 		checkFault(t, "a Text that no program has", source(line), 0, impl.RdProg)
+	}
+}
+
+// TestAspifReadBlanks: where two blanks stand in a row a word is lacking, also where it should be a Text of no bytes; that is met ahead of all that is behind it.
+func TestAspifReadBlanks(t *testing.T) {
+	for _, line := range []string{
+		"4 0  0", "4 0  1 1", "4 0 ", "4 0  ", "4 0   0", "4 0  1000000001", "4 0  x", "4 0  0 0", "4 0  1 13",
+		"4 1  0", "4 1  1 1", "4 1   0", "4 2  ab 0", "4  1 a 0", "4 1 a  0", "4 1 a 0 ", "4 1 a 1  1", " 4 1 a 0", "4 -1  7",
+	} {
+		checkFault(t, "a blank too many", source(line), 2, impl.RdForm)
+		checkFault(t, "a blank too many behind other lines", source("1 0 0 0 0", "4 1 a 0", line), 4, impl.RdForm)
+		checkFault(t, "a blank too many ahead of another fault", source(line, "7", "2 1000000001 0"), 2, impl.RdForm)
+		checkFault(t, "a blank too many and no program", source("1 0 1 13 0 0", line, "5 1 3"), 3, impl.RdForm)
+	}
+	checkFault(t, "a blank too many behind another fault", source("7", "4 0  0"), 2, impl.RdOther)
+	checkFault(t, "a number too great ahead of it in the line", source("4 1000000001  0"), 2, impl.RdRange)
+	for _, line := range slices.Concat(wholeLines()...) {
+		for i := range strings.Split(line, " ") {
+			checkFault(t, "a word left out between its blanks", source(put(line, i, "")), 2, impl.RdForm)
+		}
 	}
 }
 
