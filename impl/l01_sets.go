@@ -1,7 +1,9 @@
 package impl
 
 import (
+	"iter"
 	"math/bits"
+	"slices"
 	"strconv"
 	"strings"
 )
@@ -55,19 +57,23 @@ func (s atomSet) size() int {
 	return bits.OnesCount16(uint16(s))
 }
 
-func (s atomSet) list() []int {
-	x := make([]int, 0, s.size())
-	for a := 1; a <= MaxAtoms; a++ {
-		if s.has(a) {
-			x = append(x, a)
+func (s atomSet) atoms() iter.Seq[int] {
+	return func(yield func(int) bool) {
+		for a := 1; a <= MaxAtoms; a++ {
+			if s.has(a) && !yield(a) {
+				return
+			}
 		}
 	}
-	return x
+}
+
+func (s atomSet) list() []int {
+	return slices.AppendSeq(make([]int, 0, s.size()), s.atoms())
 }
 
 func (s atomSet) text() string {
 	words := make([]string, 0, s.size())
-	for _, a := range s.list() {
+	for a := range s.atoms() {
 		words = append(words, NumText(a))
 	}
 	return strings.Join(words, " ")
