@@ -25,6 +25,11 @@ func atomBit(a int) atomSet {
 	return 1 << (a - 1)
 }
 
+// atomsUpTo asks for an n in 0 .. MaxAtoms.
+func atomsUpTo(n int) atomSet {
+	return 1<<n - 1
+}
+
 func atomsIn(x []int) atomSet {
 	var s atomSet
 	for _, a := range x {
