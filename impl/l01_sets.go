@@ -62,6 +62,11 @@ func (s atomSet) size() int {
 	return bits.OnesCount16(uint16(s))
 }
 
+// first is the least atom, and 0 of the empty set.
+func (s atomSet) first() int {
+	return bits.Len16(uint16(s & -s))
+}
+
 func (s atomSet) atoms() iter.Seq[int] {
 	return func(yield func(int) bool) {
 		for a := 1; a <= MaxAtoms; a++ {
