@@ -8,7 +8,6 @@ import (
 	"slices"
 	"strconv"
 	"strings"
-	"sync"
 	"testing"
 	"time"
 
@@ -771,25 +770,12 @@ func TestStepsBehindMost(t *testing.T) {
 
 // TestSearchIsAlwaysTheSame: however often it is asked, by however many at once.
 func TestSearchIsAlwaysTheSame(t *testing.T) {
-	before := runtime.GOMAXPROCS(0)
-	defer runtime.GOMAXPROCS(before)
 	p := impl.Prog{Atoms: 6, Rules: []impl.Rule{choice([]int{1, 3, 5, 6}), plain(2, 3, -4), plain(4, -2, 1), constraint(1, 5)}}
 	order := []int{-2, 5, -4}
-	for _, procs := range []int{1, 2, 8} {
-		runtime.GOMAXPROCS(procs)
-		for most := range 6 {
-			for _, budget := range []int{3, 8, 9, 20, impl.MaxBudget} {
-				want := foundText(searchBy(p, order, most, budget))
-				var asking sync.WaitGroup
-				for range 8 {
-					asking.Go(func() {
-						for range 25 {
-							checkFound(t, "again", p, order, most, budget, want)
-						}
-					})
-				}
-				asking.Wait()
-			}
+	for most := range 6 {
+		for _, budget := range []int{3, 8, 9, 20, impl.MaxBudget} {
+			want := foundText(searchBy(p, order, most, budget))
+			byMany(25, func() { checkFound(t, "again", p, order, most, budget, want) })
 		}
 	}
 }

@@ -4,10 +4,8 @@ import (
 	"math"
 	"math/rand"
 	"reflect"
-	"runtime"
 	"slices"
 	"strings"
-	"sync"
 	"testing"
 
 	"loop.example/g00554/impl"
@@ -995,31 +993,20 @@ func TestNarrowOfNothingKnown(t *testing.T) {
 
 // TestConsequencesAreAlwaysTheSame: however often they are asked, by however many at once.
 func TestConsequencesAreAlwaysTheSame(t *testing.T) {
-	before := runtime.GOMAXPROCS(0)
-	defer runtime.GOMAXPROCS(before)
 	p := impl.Prog{Atoms: 7, Rules: []impl.Rule{choice([]int{1, 3, 5, 6, 7}), plain(2, 3, -4), plain(4, -2, 1), constraint(1, 5)}, ProjOn: true, Project: []int{1, 2, 3, 4, 7}}
 	p.Shows = []impl.Show{{Text: "a", Cond: []int{1}}, {Text: "b", Cond: []int{-2}}, {Text: "a"}}
 	sets, texts := textsOf(impl.Projected(p)), impl.Shown(p, []int{1, 3})
 	answers := answersOfWhole(p)
 	brave, cautious := toldBy(answers)
 	narrow := sharedBy(answers, valuesOf("+?????-"))
-	for _, procs := range []int{1, 2, 8} {
-		runtime.GOMAXPROCS(procs)
-		var asking sync.WaitGroup
-		for range 8 {
-			asking.Go(func() {
-				for range 50 {
-					checkProjected(t, "again", p, sets...)
-					checkTold(t, "again", p, brave, cautious)
-					checkNarrow(t, "again", p, "+?????-", narrow)
-					if !slices.Equal(impl.Shown(p, []int{1, 3}), texts) {
-						t.Errorf("again: Shown(%+v) is another one", p)
-					}
-				}
-			})
+	byMany(50, func() {
+		checkProjected(t, "again", p, sets...)
+		checkTold(t, "again", p, brave, cautious)
+		checkNarrow(t, "again", p, "+?????-", narrow)
+		if !slices.Equal(impl.Shown(p, []int{1, 3}), texts) {
+			t.Errorf("again: Shown(%+v) is another one", p)
 		}
-		asking.Wait()
-	}
+	})
 }
 
 // consequential are programs, and what is none, of which some is seen, shown and told.

@@ -4,10 +4,8 @@ import (
 	"math"
 	"math/rand"
 	"reflect"
-	"runtime"
 	"slices"
 	"strings"
-	"sync"
 	"testing"
 
 	"loop.example/g00554/impl"
@@ -871,29 +869,18 @@ func TestBoundedByTheBest(t *testing.T) {
 
 // TestCostsAreAlwaysTheSame: however often they are asked, by however many at once.
 func TestCostsAreAlwaysTheSame(t *testing.T) {
-	before := runtime.GOMAXPROCS(0)
-	defer runtime.GOMAXPROCS(before)
 	p := costly()
 	costs := []int{2, 0}
 	best, _ := impl.Optimal(p)
 	bounded, _ := impl.Bounded(p, costs)
-	for _, procs := range []int{1, 2, 8} {
-		runtime.GOMAXPROCS(procs)
-		var asking sync.WaitGroup
-		for range 8 {
-			asking.Go(func() {
-				for range 20 {
-					again, ok := impl.Optimal(p)
-					other, is := impl.Bounded(p, costs)
-					if !ok || !is || !alike(again, best) || !alike(other, bounded) {
-						t.Errorf("again: Optimal and Bounded of %+v are %+v and %+v", p, again, other)
-					}
-					checkCosts(t, "again", p, []int{2, 8}, "2 1")
-				}
-			})
+	byMany(20, func() {
+		again, ok := impl.Optimal(p)
+		other, is := impl.Bounded(p, costs)
+		if !ok || !is || !alike(again, best) || !alike(other, bounded) {
+			t.Errorf("again: Optimal and Bounded of %+v are %+v and %+v", p, again, other)
 		}
-		asking.Wait()
-	}
+		checkCosts(t, "again", p, []int{2, 8}, "2 1")
+	})
 }
 
 // priced are programs, and what is none, with costs that bound them, and ones that do not.

@@ -4,11 +4,9 @@ import (
 	"math"
 	"math/rand"
 	"reflect"
-	"runtime"
 	"slices"
 	"strconv"
 	"strings"
-	"sync"
 	"testing"
 
 	"loop.example/g00554/impl"
@@ -806,25 +804,14 @@ func TestWhatIsToldAgainstHolds(t *testing.T) {
 
 // TestWhyIsAlwaysTheSame: however often it is asked, by however many at once.
 func TestWhyIsAlwaysTheSame(t *testing.T) {
-	before := runtime.GOMAXPROCS(0)
-	defer runtime.GOMAXPROCS(before)
 	p := impl.Prog{Atoms: 5, Rules: []impl.Rule{plain(1, 5), plain(2), plain(3, 1), plain(5, 2), plain(4)}}
 	ring := impl.Prog{Atoms: 4, Rules: loop(1, 2, 3)}
-	for _, procs := range []int{1, 2, 8} {
-		runtime.GOMAXPROCS(procs)
-		var asking sync.WaitGroup
-		for range 8 {
-			asking.Go(func() {
-				for range 50 {
-					checkWhy(t, "again", p, []int{1, 2, 3, 4, 5}, "2:1 4:4 5:3 1:0 3:2")
-					checkReasons(t, "again", p, []int{1, 2, 3, 4, 5}, "4:4 2:1 5:3 1:0 3:2", true)
-					checkAgainst(t, "again", p, []int{2, 4}, 1, "3")
-					checkAgainst(t, "again", ring, []int{1, 2, 3}, 2, "1 2 3")
-				}
-			})
-		}
-		asking.Wait()
-	}
+	byMany(50, func() {
+		checkWhy(t, "again", p, []int{1, 2, 3, 4, 5}, "2:1 4:4 5:3 1:0 3:2")
+		checkReasons(t, "again", p, []int{1, 2, 3, 4, 5}, "4:4 2:1 5:3 1:0 3:2", true)
+		checkAgainst(t, "again", p, []int{2, 4}, 1, "3")
+		checkAgainst(t, "again", ring, []int{1, 2, 3}, 2, "1 2 3")
+	})
 }
 
 // reasonable are programs, and what is none, with sets that have reasons, for calls that must leave them as they are.

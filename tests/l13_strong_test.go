@@ -4,10 +4,8 @@ import (
 	"math"
 	"math/rand"
 	"reflect"
-	"runtime"
 	"slices"
 	"strconv"
-	"sync"
 	"testing"
 
 	"loop.example/g00554/impl"
@@ -1104,24 +1102,13 @@ func TestStrongAtLimits(t *testing.T) {
 
 // TestStrongIsAlwaysTheSame: however often it is asked, by however many at once.
 func TestStrongIsAlwaysTheSame(t *testing.T) {
-	before := runtime.GOMAXPROCS(0)
-	defer runtime.GOMAXPROCS(before)
 	p, q := rulesOf(2, plain(1, -2)), rulesOf(2, plain(1))
-	for _, procs := range []int{1, 2, 8} {
-		runtime.GOMAXPROCS(procs)
-		var asking sync.WaitGroup
-		for range 8 {
-			asking.Go(func() {
-				for range 50 {
-					checkPairs(t, "again", p, "1/1", "/2", "2/2", "/1 2", "1/1 2", "2/1 2", "1 2/1 2")
-					checkStrongIs(t, "again", p, q, false)
-					checkStrongIs(t, "again", p, p, true)
-					checkEqualIs(t, "again", p, q, true)
-				}
-			})
-		}
-		asking.Wait()
-	}
+	byMany(50, func() {
+		checkPairs(t, "again", p, "1/1", "/2", "2/2", "/1 2", "1/1 2", "2/1 2", "1 2/1 2")
+		checkStrongIs(t, "again", p, q, false)
+		checkStrongIs(t, "again", p, p, true)
+		checkEqualIs(t, "again", p, q, true)
+	})
 }
 
 // likeable are programs, and what is none, for calls that must leave them as they are.

@@ -2,7 +2,9 @@ package tests
 
 import (
 	"reflect"
+	"runtime"
 	"slices"
+	"sync"
 	"testing"
 )
 
@@ -170,5 +172,23 @@ func overwrite(x []int, sign int) {
 	x = x[:cap(x)]
 	for i := range x {
 		x[i] = sign
+	}
+}
+
+// byMany has eight goroutines ask at once, each of them n times, on one, two and eight threads: what a call keeps would be seen by another one.
+func byMany(n int, ask func()) {
+	before := runtime.GOMAXPROCS(0)
+	defer runtime.GOMAXPROCS(before)
+	for _, procs := range []int{1, 2, 8} {
+		runtime.GOMAXPROCS(procs)
+		var asking sync.WaitGroup
+		for range 8 {
+			asking.Go(func() {
+				for range n {
+					ask()
+				}
+			})
+		}
+		asking.Wait()
 	}
 }
